@@ -1,6 +1,9 @@
 package parse
 
-import "turnery/api"
+import (
+	"turnery/api"
+	"turnery/precedence"
+)
 
 // exprParser reads expressions. Its methods are steps, or make steps: each adds one loose node, if nothing else is said.
 type exprParser struct {
@@ -11,7 +14,7 @@ type exprParser struct {
 // expr reads any expression.
 func (p *exprParser) expr() error {
 	mark := p.mark()
-	if err := p.pairs(lowestPair); err != nil {
+	if err := p.pairs(precedence.Or); err != nil {
 		return err
 	}
 	t := p.peek()
@@ -30,9 +33,9 @@ func (p *exprParser) pairs(lowest int) error {
 	if err := p.prefixed(); err != nil {
 		return err
 	}
-	for levelOf(p.peek().Text) >= lowest {
+	for precedence.Of(p.peek().Text) >= lowest {
 		t := p.take()
-		level := levelOf(t.Text)
+		level := precedence.Of(t.Text)
 		n := api.Node{Kind: pairKind(level), Text: t.Text, At: t.At}
 		operand := func() error { return p.pairs(level + 1) }
 		if err := p.extend(mark, n, operand); err != nil {

@@ -1,44 +1,13 @@
 package parse
 
-import "turnery/api"
-
-// Levels of the operators that stand between two operands, without those of level 1: lower ones bind less.
-const (
-	levelOr    = 2
-	levelAnd   = 3
-	lowestPair = levelOr
+import (
+	"turnery/api"
+	"turnery/precedence"
 )
-
-// levelOf is the level of an operator that stands between two operands; 0, if the text is none or is one of level 1.
-func levelOf(text string) int {
-	switch text {
-	case "||":
-		return levelOr
-	case "&&":
-		return levelAnd
-	case "|":
-		return 4
-	case "^":
-		return 5
-	case "&":
-		return 6
-	case "==", "!=":
-		return 7
-	case "<", "<=", ">", ">=":
-		return 8
-	case "<<", ">>":
-		return 9
-	case "+", "-":
-		return 10
-	case "*", "/", "%":
-		return 11
-	}
-	return 0
-}
 
 // pairKind is the kind of the node of an operator of a level.
 func pairKind(level int) int {
-	if level == levelOr || level == levelAnd {
+	if level == precedence.Or || level == precedence.And {
 		return api.IsBoth
 	}
 	return api.IsTwo
